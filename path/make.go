@@ -3,6 +3,7 @@ package path
 import (
 	"tryst/api"
 	"tryst/fault"
+	"tryst/parts"
 	"tryst/term"
 )
 
@@ -52,16 +53,16 @@ func (m *maker) build(secret int) error {
 // check tells what is wrong with what is handed in.
 func (m *maker) check(secret int) error {
 	for _, node := range m.t {
-		if node.Kind != api.Blank && !is(m.a, node.Pub) {
+		if node.Kind != api.Blank && !parts.Are(m.a, node.Pub) {
 			return fault.Of("pub", api.ErrNone)
 		}
 	}
-	if !is(m.a, secret) {
+	if !parts.Are(m.a, secret) {
 		return fault.Of("secret", api.ErrNone)
 	}
 	for _, w := range turns(m.t, m.i) {
 		for _, x := range told(m.t, w, m.out) {
-			if !isPub(m.a, m.t[x].Pub) {
+			if !parts.IsPub(m.a, m.t[x].Pub) {
 				return fault.Of(at(x), api.ErrKind)
 			}
 		}

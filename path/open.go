@@ -6,6 +6,7 @@ import (
 	"tryst/api"
 	"tryst/fault"
 	"tryst/nodes"
+	"tryst/parts"
 	"tryst/term"
 )
 
@@ -81,10 +82,8 @@ func (o *opener) known() error {
 	for _, k := range o.privs {
 		l = append(l, k.Secret)
 	}
-	for _, i := range l {
-		if !is(o.a, i) {
-			return fault.Of("terms", api.ErrNone)
-		}
+	if !parts.Are(o.a, l...) {
+		return fault.Of("terms", api.ErrNone)
 	}
 	return nil
 }
@@ -99,11 +98,11 @@ func (o *opener) fits(path []turn) error {
 		if s.Node != w.node || len(s.Boxes) != len(told(o.t, w, o.out)) {
 			return fault.Of(at(w.node), api.ErrArg)
 		}
-		if !isPub(o.a, s.Pub) {
+		if !parts.IsPub(o.a, s.Pub) {
 			return fault.Of(at(w.node), api.ErrKind)
 		}
 	}
-	if !isPub(o.a, o.pub) {
+	if !parts.IsPub(o.a, o.pub) {
 		return fault.Of("leaf", api.ErrKind)
 	}
 	return nil
