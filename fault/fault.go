@@ -39,6 +39,14 @@ func Wrap(where string, err error) error {
 	return At{where, err}
 }
 
+// Unfit makes an error of what does not fit the number e, whatever went wrong; that there is no room stays that.
+func Unfit(where string, err error, e api.Errno) error {
+	if err == nil || errors.Is(err, api.ErrFull) {
+		return Wrap(where, err)
+	}
+	return Of(where, e)
+}
+
 // Number is an error's number.
 func Number(err error) api.Errno {
 	var e api.Errno

@@ -19,3 +19,9 @@ func TestNumber(t *testing.T) {
 		t.Error("nothing is no fault")
 	}
 }
+
+func TestUnfit(t *testing.T) {
+	if Unfit("x", nil, api.ErrPath) != nil || Number(Unfit("x", Of("y", api.ErrOpen), api.ErrPath)) != api.ErrPath || Number(Unfit("x", Of("y", api.ErrFull), api.ErrPath)) != api.ErrFull {
+		t.Error("Unfit")
+	}
+}

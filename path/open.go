@@ -42,7 +42,7 @@ func (o *opener) open() error {
 	}
 	path := turns(o.t, o.i)
 	if err := o.fits(path); err != nil {
-		return misfit("steps", err)
+		return fault.Unfit("steps", err, api.ErrPath)
 	}
 	first := slices.IndexFunc(path, func(w turn) bool { return nodes.Has(w.node, o.j) })
 	if first < 0 {
@@ -50,7 +50,7 @@ func (o *opener) open() error {
 	}
 	sk, err := o.unbox(path[first], o.steps[first])
 	if err != nil {
-		return misfit(at(path[first].node), err)
+		return fault.Unfit(at(path[first].node), err, api.ErrPath)
 	}
 	up := above(o.t, o.i)
 	for _, k := range o.privs {
@@ -59,7 +59,7 @@ func (o *opener) open() error {
 		}
 	}
 	if err := o.climb(sk, o.steps[first:]); err != nil {
-		return misfit("climb", err)
+		return fault.Unfit("climb", err, api.ErrPath)
 	}
 	o.u, err = renewed(o.t, o.i, o.pub, o.steps)
 	return err

@@ -7,6 +7,7 @@ import (
 	"testing"
 
 	"tryst/api"
+	"tryst/copies"
 	"tryst/nodes"
 	"tryst/term"
 )
@@ -215,7 +216,7 @@ func TestP16_2NothingShared(t *testing.T) {
 	r := rand.New(rand.NewSource(2))
 	for range 200 {
 		u := grown(r)
-		before := clone(u)
+		before := copies.Tree(u)
 		var made [][]api.Node
 		v, _, _ := Add(u, r.Intn(8), 1, 1)
 		w, _ := Update(u, r.Intn(8), 1)
