@@ -45,6 +45,12 @@ func TestP5_1Lengths(t *testing.T) {
 		if e != c.e || e == api.OK && len(box) != c.text+16 || e != api.OK && len(box) != 0 {
 			t.Error(c, e, len(box))
 		}
+		if e != api.OK {
+			continue
+		}
+		if text, e := Open(key, nonce, most[:c.ad], box); e != api.OK || len(text) != c.text {
+			t.Error(c, e)
+		}
 	}
 }
 

@@ -151,7 +151,7 @@ func TestP28_3Follows(t *testing.T) {
 	}{
 		{log(0, 1, 2, 3), log(0, 1, 2, 3), 2, true}, {log(0, 1, 2, 3), log(0, 1, 2), 2, true}, {log(0, 1, 2, 3), log(2, 3), 2, true}, {log(0, 1, 2, 3), log(3), 2, true}, {log(0, 1, 2, 3), log(4), 2, false}, {log(0, 1, 2), log(0, 1, 2, 3), 2, false},
 		{log(0, 1, 2, 3), log(0, 1, 9, 3), 2, false}, {log(0, 1, 2, 3), log(2, 9), 2, false}, {log(2, 3), log(0, 8, 9, 3), 2, true}, {log(2, 3), log(0, 8, 9, 4), 2, false}, {log(2, 3), log(0, 8), 2, true},
-		{nil, log(0, 1), 2, true}, {log(0, 1), nil, 2, true}, {log(0, 1), log(0, 2), 5, true}, {log(0, 1), log(0, 2), -1, true}, {log(-1), nil, 2, false}, {nil, log(-1), 2, false}, {log(-1), log(0), 5, false},
+		{nil, log(0, 1), 2, true}, {log(0, 1), nil, 2, true}, {log(0, 1), log(0, 2), 5, true}, {log(0, 1), log(0, 2), -1, true}, {[]api.Log{{Client: 3, Bodies: []int{1}}}, []api.Log{{Client: 3, Bodies: []int{2}}}, 3, false}, {log(-1), nil, 2, false}, {nil, log(-1), 2, false}, {log(-1), log(0), 5, false},
 	} {
 		if got := Follows(c.own, c.other, c.client); got != c.want {
 			t.Error(i, got)

@@ -16,6 +16,7 @@ import (
 	"tryst/ratchet"
 	"tryst/sched"
 	"tryst/slots"
+	"tryst/store"
 	"tryst/term"
 	"tryst/tree"
 )
@@ -259,13 +260,21 @@ func TestP26_1NothingShared(t *testing.T) {
 	f := grouped(t, 2)
 	c := f.clients[0]
 	c.Say(3)
-	before := all(c)
+	before := encode(c.st)
 	m, _ := c.Member()
 	m.Tree[0].Client, m.Privs[0].Secret, m.Chains[1].Chain = 9, 9, 9
 	c.Logs()[0].Bodies[0] = 9
 	c.Secrets()[0] = 9
-	if !same(before, all(c)) {
+	if !slices.Equal(before, encode(c.st)) {
 		t.Error("memory is shared")
+	}
+	d, _ := disk.New(300)
+	servers := slices.Clone(f.pubs)
+	other, e := Open(f.a, d, 1, servers)
+	f.must(e)
+	servers[0] = -1
+	if _, e := other.Request(0, f.draw()); e != api.OK {
+		t.Error("what was handed in is kept", e)
 	}
 }
 
@@ -899,6 +908,69 @@ func TestP26_6Crash(t *testing.T) {
 	}
 }
 
+// TestP26_6CrashOdd is the same of the answer of an odd round, and of mails.
+func TestP26_6CrashOdd(t *testing.T) {
+	for trip := 1; trip < 8; trip++ {
+		f := grouped(t, 2)
+		a, b := f.clients[0], f.clients[1]
+		x, e := a.Request(1001, f.draw())
+		f.must(e)
+		y, e := b.Request(1001, f.draw())
+		f.must(e)
+		same := []int{0, 1}
+		_, out, e := mix.Round(f.a, f.st, f.secrets, []int{x, y}, [][]int{same, same, same})
+		f.must(e)
+		before, _ := a.Member()
+		a.d.Trip(trip, slices.Repeat([]bool{trip%2 == 0}, 20), -1)
+		e = a.Answer(1001, out[0])
+		if e == api.OK {
+			break
+		}
+		m, _ := a.Member()
+		if e != api.ErrOff || !a.Down() || !reflect.DeepEqual(m, before) {
+			t.Fatal(trip, e)
+		}
+		f.reopen(0)
+		m, _ = f.clients[0].Member()
+		if n := m.Chains[1].Next; n != before.Chains[1].Next && n != before.Chains[1].Next+1 {
+			t.Error(trip, n)
+		}
+	}
+	f := newFleet(t, 2)
+	a, b := f.clients[0], f.clients[1]
+	f.must(a.Create(f.draw()))
+	p, _ := b.Offer(f.draw())
+	f.must(a.Invite(p, f.draw()))
+	_, answers := f.run()
+	f.must(a.Answer(0, answers[0]))
+	a.d.Trip(1, nil, -1)
+	if l, e := a.Mails(); e != api.ErrOff || len(l) != 0 {
+		t.Error("mails that are not saved as gone", e)
+	}
+	f.reopen(0)
+	if l, e := f.clients[0].Mails(); e != api.OK || len(l) != 1 || l[0].Client != 1 {
+		t.Error(l, e)
+	}
+	if l, e := f.clients[0].Mails(); e != api.OK || len(l) != 0 {
+		t.Error("twice", e)
+	}
+}
+
+// TestP26_2OwnLogFirst: the own log stays, be it the first one, too.
+func TestP26_2OwnLogFirst(t *testing.T) {
+	f := grouped(t, 2)
+	a, b := f.clients[0], f.clients[1]
+	a.Say(6)
+	f.must(b.Remove(0, f.draw()))
+	for range 4 {
+		f.step()
+	}
+	f.must(a.Create(f.draw()))
+	if l := a.Logs(); len(l) != 1 || l[0].Client != 0 || !slices.Equal(l[0].Bodies, []int{6}) {
+		t.Error(l)
+	}
+}
+
 // TestP26_6NoKeyTwice lets clients crash at random; no chain's key is ever sent twice, and what was said comes in order.
 func TestP26_6NoKeyTwice(t *testing.T) {
 	r := rand.New(rand.NewSource(27))
@@ -969,6 +1041,33 @@ func TestP26_6NoKeyTwice(t *testing.T) {
 				}
 			}
 		}
+	}
+}
+
+func TestCodecNumbers(t *testing.T) {
+	for _, n := range []int{0, 1, 127, 128, 129, 255, 256, 16383, 16384, 1 << 30, 1<<63 - 1} {
+		w := &writer{}
+		w.number(n)
+		r := &reader{b: w.b}
+		if r.number() != n || r.bad || len(r.b) != 0 {
+			t.Error(n)
+		}
+	}
+	r := &reader{b: slices.Repeat([]byte{255}, 10)}
+	if r.number() != 0 || !r.bad {
+		t.Error("a number without an end")
+	}
+}
+
+// TestCodecOther: a state that something else saved is none.
+func TestCodecOther(t *testing.T) {
+	f := newFleet(t, 1)
+	d, _ := disk.New(300)
+	s, e := store.Open(d)
+	f.must(e)
+	f.must(s.Save([]byte("something else")))
+	if c, e := Open(f.a, d, 0, f.pubs); e != api.ErrState || c != nil {
+		t.Error(e)
 	}
 }
 

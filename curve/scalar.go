@@ -67,9 +67,8 @@ func mulAdd(a, b, c scalar) wide {
 			w[i+j], carry = bits.Add64(w[i+j], l, 0)
 			over = h + carry
 		}
-		for k := i + 4; k < 8 && over > 0; k++ {
-			w[k], over = bits.Add64(w[k], over, 0)
-		}
+		// No row ahead of this one reached so far.
+		w[i+4] = over
 	}
 	return w
 }

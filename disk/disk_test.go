@@ -193,6 +193,12 @@ func TestP13_3Trip(t *testing.T) {
 	if d.Sync() != api.OK || d.Write(0, full(1)) != api.ErrOff {
 		t.Error("armed without power")
 	}
+	d.Trip(1, nil, -1)
+	d.Crash(nil, -1)
+	d.Start()
+	if d.Sync() != api.ErrOff {
+		t.Error("a crash without power disarms")
+	}
 }
 
 func TestP13_4Safe(t *testing.T) {

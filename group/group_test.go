@@ -188,7 +188,7 @@ func TestP21_3Change(t *testing.T) {
 		adds, removes []int
 		e             api.Errno
 	}{
-		{nil, eight, nil, api.ErrTree}, {m.Tree, eight, nil, api.ErrLen}, {m.Tree, nil, make([]int, 9), api.ErrLen}, {m.Tree, []int{-1}, []int{2}, api.ErrNone}, {m.Tree, nil, []int{1, 1}, api.ErrNone}, {m.Tree, []int{p0}, []int{0, 1}, api.ErrArg},
+		{nil, eight, nil, api.ErrTree}, {m.Tree, eight, nil, api.ErrLen}, {m.Tree, nil, make([]int, 9), api.ErrLen}, {m.Tree, eight[:8], nil, api.ErrTwice}, {m.Tree, nil, slices.Repeat([]int{1}, 8), api.ErrNone}, {m.Tree, []int{-1}, []int{2}, api.ErrNone}, {m.Tree, nil, []int{1, 1}, api.ErrNone}, {m.Tree, []int{p0}, []int{0, 1}, api.ErrArg},
 		{m.Tree, []int{-1}, nil, api.ErrNone}, {m.Tree, []int{bad}, nil, api.ErrKind}, {m.Tree, []int{p5, bad}, nil, api.ErrTwice}, {m.Tree, []int{p0, p0}, nil, api.ErrTwice}, {m.Tree, []int{p5}, []int{1}, api.OK},
 	} {
 		u, fresh, e := Change(b.a, c.t, c.adds, c.removes)

@@ -153,7 +153,7 @@ func TestP24_2Errors(t *testing.T) {
 		perms       [][]int
 		e           api.Errno
 	}{
-		{api.Mix{}, b.secrets, nil, make([][]int, 3), api.OK}, {api.Mix{}, b.secrets, []int{3}, perms, api.OK},
+		{api.Mix{}, b.secrets, nil, make([][]int, 3), api.OK}, {api.Mix{}, b.secrets, over[:100], [][]int{count(100), count(100), count(100)}, api.OK}, {api.Mix{}, b.secrets, over, [][]int{count(101), count(101), count(101)}, api.ErrLen}, {api.Mix{}, b.secrets, []int{3}, perms, api.OK},
 		{api.Mix{}, b.secrets[:2], []int{-1}, perms, api.ErrLen}, {api.Mix{}, b.secrets, []int{-1}, perms[:2], api.ErrLen}, {api.Mix{}, b.secrets, []int{3}, append(perms, perms[0]), api.ErrLen}, {api.Mix{}, b.secrets, over, perms, api.ErrLen},
 		{api.Mix{}, b.secrets, []int{-1}, [][]int{{0}, {1}, {0}}, api.ErrArg}, {api.Mix{}, b.secrets, []int{3}, [][]int{{0}, {0}, {-1}}, api.ErrArg}, {api.Mix{}, b.secrets, []int{3}, [][]int{{0}, nil, {0}}, api.ErrArg},
 		{api.Mix{}, b.secrets, []int{3}, [][]int{{0}, {0, 1}, {0}}, api.ErrArg}, {api.Mix{}, b.secrets, []int{3, 4}, [][]int{{0, 1}, {0, 0}, {1, 0}}, api.ErrArg}, {api.Mix{}, b.secrets, nil, perms, api.ErrArg},
@@ -165,6 +165,15 @@ func TestP24_2Errors(t *testing.T) {
 			t.Error(i, e)
 		}
 	}
+}
+
+// count is the numbers from 0 up to n - 1.
+func count(n int) []int {
+	var out []int
+	for i := range n {
+		out = append(out, i)
+	}
+	return out
 }
 
 // TestP24_3 runs rounds of random requests: permutations change nothing but the order in which they are done.

@@ -113,6 +113,7 @@ func TestP20_2Body(t *testing.T) {
 		{func(c *api.Commit) { c.Steps[0].Boxes = long }, api.ErrLen}, {func(c *api.Commit) { c.Steps[1].Boxes = long[:api.MaxArgs] }, api.OK}, {func(c *api.Commit) { c.Removes = long[:api.MaxArgs] }, api.OK},
 		{func(c *api.Commit) { c.Adds[0] = -1 }, api.ErrNone}, {func(c *api.Commit) { c.Pub = 1 << 40 }, api.ErrNone}, {func(c *api.Commit) { c.Steps[0].Pub = -1 }, api.ErrNone}, {func(c *api.Commit) { c.Steps[0].Boxes[1] = 1 << 40 }, api.ErrNone},
 		{func(c *api.Commit) { c.Epoch = 1 << 60 }, api.OK},
+		{func(c *api.Commit) { c.Adds = long[:api.MaxArgs] }, api.OK}, {func(c *api.Commit) { c.Steps = make([]api.Step, api.MaxArgs) }, api.OK},
 	} {
 		d := some()
 		c.f(&d)

@@ -202,7 +202,7 @@ func TestP17_2MakeErrors(t *testing.T) {
 	}{
 		{nil, 0, s, nil, api.ErrTree}, {b.tree, 3, s, nil, api.ErrNone}, {b.tree, -1, s, nil, api.ErrNone}, {b.tree, 0, -1, nil, api.ErrNone}, {b.tree, 0, b.a.Len() + 99, nil, api.ErrNone},
 		{change(4, 1<<40), 0, s, nil, api.ErrNone}, {change(0, 1<<40), 0, s, nil, api.ErrNone}, {change(2, s), 0, s, nil, api.ErrKind}, {change(4, s), 0, s, nil, api.ErrKind},
-		{change(4, s), 0, s, []int{2}, api.OK}, {change(0, s), 0, s, nil, api.OK},
+		{change(4, s), 0, -1, nil, api.ErrNone}, {change(4, s), 0, s, []int{2}, api.OK}, {change(0, s), 0, s, nil, api.OK},
 	} {
 		u, steps, privs, commit, e := Make(b.a, c.t, c.i, c.secret, c.out)
 		if e != c.e || e != api.OK && len(u)+len(steps)+len(privs)+commit != 0 {
@@ -246,6 +246,13 @@ func TestP17_3OpenErrors(t *testing.T) {
 	wrong := b.put(api.Box, 0, b.tree[2].Pub, atom, atom)
 	none := b.put(api.Box, 0, other, atom, atom)
 	p := b.privs
+	with := func(f func(t []api.Node)) []api.Node {
+		u := slices.Clone(b.tree)
+		f(u)
+		return u
+	}
+	told, _ := b.a.Unbox(steps[0].Boxes[0], b.privs[1][0].Secret)
+	more := b.put(api.Box, 0, b.tree[2].Pub, atom, told[0], atom)
 	for i, c := range []struct {
 		t      []api.Node
 		i, pub int
@@ -279,6 +286,9 @@ func TestP17_3OpenErrors(t *testing.T) {
 		{b.tree, 0, pub, change(func(l []api.Step) []api.Step { l[0].Boxes[0] = atom; return l }), 1, p[1], nil, api.ErrPath},
 		{b.tree, 0, pub, steps, 1, nil, nil, api.ErrPath}, {b.tree, 0, pub, steps, 1, []api.Key{{N: 2, Secret: atom}, p[1][0]}, nil, api.ErrPath},
 		{b.tree, 0, other, steps, 1, p[1], nil, api.OK},
+		{with(func(t []api.Node) { t[8].Pub = 1 << 40 }), 0, pub, steps, 1, p[1], nil, api.ErrNone}, {with(func(t []api.Node) { t[8].Sig = 1 << 40 }), 0, pub, steps, 1, p[1], nil, api.ErrNone}, {with(func(t []api.Node) { t[7].Pub = 1 << 40 }), 0, pub, steps, 1, p[1], nil, api.ErrNone},
+		{b.tree, 0, pub, change(func(l []api.Step) []api.Step { l[0].Pub = atom; return l }), 3, p[3], nil, api.ErrPath},
+		{b.tree, 0, pub, change(func(l []api.Step) []api.Step { l[0].Boxes[0] = more; return l }), 1, p[1], nil, api.ErrPath},
 	} {
 		u, keys, commit, e := Open(b.a, c.t, c.i, c.pub, c.steps, c.j, c.privs, c.out)
 		if e != c.e || e != api.OK && len(u)+len(keys)+commit != 0 {

@@ -109,6 +109,18 @@ func TestP19_2Take(t *testing.T) {
 	if e != api.OK || len(v.Skipped) != 16 || v.Skipped[0].N != 3 || v.Skipped[15].N != 19 || key != keyOf(a, 5, 20) {
 		t.Error(v, e)
 	}
+	room := append(slices.Clone(u.Skipped), api.Key{N: 77})
+	ahead := u
+	ahead.Skipped = room[:len(u.Skipped)]
+	Take(a, ahead, 9)
+	if room[len(u.Skipped)].N != 77 {
+		t.Error("the spare room was changed")
+	}
+	full := api.Ratchet{Chain: 5, Next: 3, Skipped: slices.Clone(before)}
+	Take(a, full, 0)
+	if !slices.Equal(full.Skipped, before) {
+		t.Error("what was handed in is changed")
+	}
 	for i := range v.Skipped {
 		v.Skipped[i] = api.Key{}
 	}

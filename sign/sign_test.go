@@ -9,6 +9,7 @@ import (
 	"testing"
 
 	"tryst/api"
+	"tryst/curve"
 )
 
 func unhex(s string) []byte {
@@ -128,6 +129,21 @@ func TestP9_2Small(t *testing.T) {
 	sig[0], sig[31] = 1, 128
 	if Verify(one, []byte("anything"), sig) {
 		t.Error("R is no point")
+	}
+}
+
+// TestP9_2NoPoint: what is no point is not taken for the point whose bytes are noughts.
+func TestP9_2NoPoint(t *testing.T) {
+	s := [32]byte{5}
+	place, _ := curve.Add(curve.Base(s), [32]byte{31: 128})
+	var sig [64]byte
+	copy(sig[:32], place[:])
+	copy(sig[32:], s[:])
+	if sum, _ := curve.Add(place, [32]byte{}); sum != curve.Base(s) {
+		t.Fatal("the sum would not fit")
+	}
+	if Verify([32]byte{2}, []byte("x"), sig) {
+		t.Error("pub is no point")
 	}
 }
 

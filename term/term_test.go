@@ -199,6 +199,16 @@ func TestP10_3NothingShared(t *testing.T) {
 	if !slices.Equal(again.Args, []int{k, w, w}) {
 		t.Error(again)
 	}
+	p := make1(t, a, api.Pub, 0, k)
+	box, sig := make1(t, a, api.Box, 0, p, k, w), make1(t, a, api.Sig, 0, k, w)
+	unboxed, _ := a.Unbox(box, k)
+	signed, _ := a.Signed(sig, p)
+	unboxed[0], signed[0] = 99, 99
+	b1, _ := a.Unbox(box, k)
+	s1, _ := a.Signed(sig, p)
+	if b1[0] != w || s1[0] != w {
+		t.Error("memory is shared")
+	}
 	if args[:4][3] != 7 {
 		t.Error("the spare room was changed")
 	}

@@ -297,6 +297,7 @@ func TestP27_2Round(t *testing.T) {
 	b.no(api.Act{Kind: api.ActRound, Inject: []int{b.Arena().Len()}}, api.ErrArg)
 	b.no(api.Act{Kind: api.ActRound, Inject: []int{b.member(0).Secret}}, api.ErrArg)
 	word, _ := b.Arena().Make(api.Word, 0)
+	b.no(api.Act{Kind: api.ActRound, Inject: slices.Repeat([]int{word}, 51)}, api.ErrArg)
 	round, sent := b.Round(), len(b.Sent())
 	b.ok(api.Act{Kind: api.ActRound, Inject: slices.Repeat([]int{word}, 50)})
 	if b.Round() != round+1 || len(b.Sent()) != sent+1 || b.Sent()[sent] != 3 {
