@@ -923,7 +923,7 @@ func TestP26_6CrashOdd(t *testing.T) {
 		before, _ := a.Member()
 		a.d.Trip(trip, slices.Repeat([]bool{trip%2 == 0}, 20), -1)
 		e = a.Answer(1001, out[0])
-		if e == api.OK {
+		if e == api.OK && trip > 4 {
 			break
 		}
 		m, _ := a.Member()
@@ -967,6 +967,23 @@ func TestP26_2OwnLogFirst(t *testing.T) {
 	}
 	f.must(a.Create(f.draw()))
 	if l := a.Logs(); len(l) != 1 || l[0].Client != 0 || !slices.Equal(l[0].Bodies, []int{6}) {
+		t.Error(l)
+	}
+	g := grouped(t, 2)
+	a, b = g.clients[0], g.clients[1]
+	a.Say(6)
+	g.must(b.Remove(0, g.draw()))
+	for range 4 {
+		g.step()
+	}
+	p, e := a.Offer(g.draw())
+	g.must(e)
+	g.must(b.Invite(p, g.draw()))
+	for range 2 {
+		g.step()
+	}
+	g.must(a.Join(g.mails[0][0]))
+	if l := a.Logs(); len(l) != 8 || l[0].Client != 0 || l[0].Base != 0 || !slices.Equal(l[0].Bodies, []int{6}) || logs.Check(l) != api.OK {
 		t.Error(l)
 	}
 }
