@@ -233,3 +233,135 @@ func TestP11_1Great(t *testing.T) {
 		t.Error(e)
 	}
 }
+
+// orders is all orders of l.
+func orders(l []int) [][]int {
+	if len(l) == 0 {
+		return [][]int{nil}
+	}
+	var out [][]int
+	for i, x := range l {
+		for _, rest := range orders(slices.Delete(slices.Clone(l), i, i+1)) {
+			out = append(out, append([]int{x}, rest...))
+		}
+	}
+	return out
+}
+
+// TestP11_1LateSecret: what stands in a box is known, whenever the Pub, the box and the secret come to be known, and whatever the secret comes from.
+func TestP11_1LateSecret(t *testing.T) {
+	for name, wrap := range map[string]func(put func(kind int, args ...int) int, k, other int) []int{
+		"alone": func(put func(int, ...int) int, k, other int) []int { return []int{k} },
+		"list":  func(put func(int, ...int) int, k, other int) []int { return []int{put(api.List, k)} },
+		"deep":  func(put func(int, ...int) int, k, other int) []int { return []int{put(api.List, put(api.List, k))} },
+		"sig":   func(put func(int, ...int) int, k, other int) []int { return []int{put(api.Sig, other, k)} },
+		"seal":  func(put func(int, ...int) int, k, other int) []int { return []int{put(api.Seal, other, k), other} },
+		"box": func(put func(int, ...int) int, k, other int) []int {
+			return []int{put(api.Box, put(api.Pub, other), k, k), other}
+		},
+		"made": func(put func(int, ...int) int, k, other int) []int { return []int{put(api.Box, k, other, k), other} },
+	} {
+		a := term.New()
+		put := func(kind int, args ...int) int {
+			i, e := a.Make(kind, 0, args...)
+			if e != api.OK {
+				t.Fatal(name, e)
+			}
+			return i
+		}
+		atom := func(n int) int {
+			i, _ := a.Make(api.Atom, n)
+			return i
+		}
+		k, with, m, other := atom(1), atom(2), atom(3), atom(4)
+		pub := put(api.Pub, k)
+		box := put(api.Box, pub, with, m)
+		told := wrap(put, k, other)
+		for _, some := range orders(append(told, pub, box)) {
+			all, e := All(a, some)
+			if e != api.OK || !slices.Equal(all, slow(a, some)) || !all[m] || all[with] {
+				t.Error(name, some, all, e)
+			}
+			if is, e := Is(a, some, m); e != api.OK || !is {
+				t.Error(name, some, is, e)
+			}
+		}
+		// without the secret the box stays shut
+		if is, e := Is(a, []int{pub, box}, m); e != api.OK || is {
+			t.Error(name, is, e)
+		}
+	}
+}
+
+// boxes makes an arena of some secrets, and of Pubs, boxes, seals and lists that lead from one to another.
+func boxes(r *rand.Rand) *term.Arena {
+	a := term.New()
+	for i := range 8 {
+		a.Make(api.Atom, i)
+	}
+	for i := range 8 {
+		a.Make(api.Pub, 0, i)
+	}
+	for range 12 {
+		a.Make(api.Box, 0, 8+r.Intn(8), r.Intn(8), r.Intn(a.Len()))
+		a.Make(api.Seal, 0, r.Intn(8), r.Intn(a.Len()))
+		a.Make(api.Sig, 0, r.Intn(8), r.Intn(a.Len()))
+		a.Make(api.List, 0, r.Intn(a.Len()))
+	}
+	return a
+}
+
+// TestP11_1AnyBoxes: where much stands in boxes, what is known is the least set, in whatever order some are told.
+func TestP11_1AnyBoxes(t *testing.T) {
+	r := rand.New(rand.NewSource(13))
+	for range 1000 {
+		a := boxes(r)
+		var some []int
+		for i := 8; i < a.Len(); i++ {
+			if r.Intn(3) == 0 {
+				some = append(some, i)
+			}
+		}
+		want := slow(a, some)
+		for range 4 {
+			r.Shuffle(len(some), func(i, j int) { some[i], some[j] = some[j], some[i] })
+			if got, e := All(a, some); e != api.OK || !slices.Equal(got, want) {
+				t.Fatal(some, e)
+			}
+		}
+	}
+}
+
+// TestP11_1GreatBoxes: boxes that open one another are not slow either, nor many for one Pub.
+func TestP11_1GreatBoxes(t *testing.T) {
+	a := term.New()
+	first, _ := a.Make(api.Atom, 0)
+	with, _ := a.Make(api.Atom, 1)
+	last := first
+	var some []int
+	for i := range 100000 {
+		k, _ := a.Make(api.Atom, i+2)
+		pub, _ := a.Make(api.Pub, 0, last)
+		box, _ := a.Make(api.Box, 0, pub, with, k)
+		some = append(some, pub, box)
+		last = k
+	}
+	pub, _ := a.Make(api.Pub, 0, last)
+	for i := range 100000 {
+		w, _ := a.Make(api.Word, i)
+		box, _ := a.Make(api.Box, 0, pub, with, w)
+		some = append(some, box)
+	}
+	held, _ := a.Make(api.List, 0, first)
+	if is, e := Is(a, some, last); e != api.OK || is {
+		t.Error(is, e)
+	}
+	for _, told := range [][]int{append([]int{held}, some...), append(slices.Clone(some), held)} {
+		if is, e := Is(a, told, last); e != api.OK || !is {
+			t.Error(is, e)
+		}
+		if is, e := Is(a, told, with); e != api.OK || is {
+			t.Error(is, e)
+		}
+	}
+}
